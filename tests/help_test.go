@@ -1,0 +1,147 @@
+package tests
+
+import (
+	"math"
+	"slices"
+	"testing"
+)
+
+// allPerms returns all permutations of n points, each in memory of its own.
+func allPerms(n int) [][]int {
+	out := [][]int{{}}
+	for k := range n {
+		var next [][]int
+		for _, p := range out {
+			for at := range k + 1 {
+				next = append(next, slices.Insert(slices.Clone(p), at, k))
+			}
+		}
+		out = next
+	}
+	return out
+}
+
+// bigPerms returns permutations of 6 to 12 points of many shapes: nothing moved,
+// one cycle, exchanges, the greatest order (60), points that stay between cycles.
+func bigPerms() [][]int {
+	return [][]int{
+		{0, 1, 2, 3, 4, 5, 6, 7, 8, 9, 10, 11},
+		{1, 2, 3, 4, 5, 6, 7, 8, 9, 10, 11, 0},
+		{11, 10, 9, 8, 7, 6, 5, 4, 3, 2, 1, 0},
+		{1, 2, 0, 4, 5, 6, 3, 8, 9, 10, 11, 7},
+		{0, 5, 2, 3, 11, 1, 6, 10, 8, 9, 7, 4},
+		{10, 1, 2, 3, 4, 5, 6, 7, 8, 9, 0, 11},
+		{7, 3, 9, 0, 11, 2, 8, 10, 1, 5, 4, 6},
+		{6, 0, 4, 10, 1, 9, 2, 5, 3, 8, 7},
+		{2, 0, 1, 5, 3, 4, 8, 6, 7, 9},
+		{3, 0, 8, 6, 2, 5, 1, 7, 4},
+		{4, 1, 7, 0, 6, 5, 3, 2},
+		{6, 5, 4, 3, 2, 1, 0},
+		{5, 0, 1, 2, 3, 4},
+	}
+}
+
+// samplePerms returns all permutations of 1 to 5 points and the big ones.
+func samplePerms() [][]int {
+	var out [][]int
+	for n := 1; n <= 5; n++ {
+		out = append(out, allPerms(n)...)
+	}
+	return append(out, bigPerms()...)
+}
+
+// pairsOf calls do with all pairs of permutations of 1 to 4 points, and with all
+// pairs of as many points among the big ones.
+func pairsOf(do func(a, b []int)) {
+	for n := 1; n <= 4; n++ {
+		for _, a := range allPerms(n) {
+			for _, b := range allPerms(n) {
+				do(a, b)
+			}
+		}
+	}
+	for _, a := range bigPerms() {
+		for _, b := range bigPerms() {
+			if len(a) == len(b) {
+				do(a, b)
+			}
+		}
+	}
+}
+
+// notPerms returns lists that are no permutations.
+func notPerms() [][]int {
+	return [][]int{
+		nil,
+		{},
+		{1},
+		{-1},
+		{0, 0},
+		{1, 1},
+		{0, 2},
+		{-1, 0},
+		{1, 2},
+		{0, 1, 1},
+		{1, 2, 3},
+		{0, 1, 3},
+		{0, 1, -2},
+		{math.MinInt, 0},
+		{math.MaxInt, 0},
+		{0, 1, 2, 3, 4, 5, 6, 7, 8, 9, 10, 10},
+		{0, 1, 2, 3, 4, 5, 6, 7, 8, 9, 10, 12},
+		{0, 1, 2, 3, 4, 5, 6, 7, 8, 9, 10, 11, 12},
+		{1, 0, 2, 3, 4, 5, 6, 7, 8, 9, 10, 11, 13, 12},
+		stay(1000),
+	}
+}
+
+// stay returns the list that takes each of n points to itself.
+func stay(n int) []int {
+	p := make([]int, n)
+	for i := range p {
+		p[i] = i
+	}
+	return p
+}
+
+// must gives the value of a call that has to succeed.
+func must[T any](t *testing.T) func(v T, ok bool) T {
+	return func(v T, ok bool) T {
+		t.Helper()
+		if !ok {
+			t.Fatal("the call fails")
+		}
+		return v
+	}
+}
+
+// sameList reports an error if two lists differ; empty and nil ones do not.
+func sameList(t *testing.T, what string, got, want []int) {
+	t.Helper()
+	if !slices.Equal(got, want) {
+		t.Errorf("%s: %v instead of %v", what, got, want)
+	}
+}
+
+// sameLists reports an error if two lists of lists differ.
+func sameLists(t *testing.T, what string, got, want [][]int) {
+	t.Helper()
+	if !slices.EqualFunc(got, want, slices.Equal[[]int]) {
+		t.Errorf("%s: %v instead of %v", what, got, want)
+	}
+}
+
+// roomy returns a list of the same numbers with spare capacity, and the whole
+// memory behind it, whose rest has numbers that no call may change.
+func roomy(p []int) (list []int, whole []int) {
+	whole = append(slices.Clone(p), -71, -72, -73, -74)
+	return whole[:len(p):len(whole)], whole
+}
+
+// scribble writes over a list up to its capacity.
+func scribble(p []int) {
+	p = p[:cap(p)]
+	for i := range p {
+		p[i] = -999
+	}
+}
