@@ -63,6 +63,14 @@ func (p perm) cycles() iter.Seq[[]int] {
 	}
 }
 
+func (p perm) cycleCount() int {
+	count := 0
+	for range p.cycles() {
+		count++
+	}
+	return count
+}
+
 // power moves each point along its own cycle, so that a great k costs no more than a small one.
 func (p perm) power(k int) perm {
 	r := make(perm, len(p))
@@ -218,11 +226,7 @@ func PermSign(p []int) int {
 	if !PermValid(p) {
 		return 0
 	}
-	rest := len(p)
-	for range perm(p).cycles() {
-		rest--
-	}
-	if rest%2 == 0 {
+	if (len(p)-perm(p).cycleCount())%2 == 0 {
 		return 1
 	}
 	return -1
