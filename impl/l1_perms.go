@@ -112,6 +112,25 @@ func (p perm) orbits(q perm) []int {
 	return least
 }
 
+// advance makes p the next permutation, compared number by number, or reports false at
+// the last one. It changes p itself, so that all of them can be gone through in one list.
+func (p perm) advance() bool {
+	at := len(p) - 2
+	for at >= 0 && p[at] > p[at+1] {
+		at--
+	}
+	if at < 0 {
+		return false
+	}
+	with := len(p) - 1
+	for p[with] < p[at] {
+		with--
+	}
+	p[at], p[with] = p[with], p[at]
+	slices.Reverse(p[at+1:])
+	return true
+}
+
 func (p perm) order() int {
 	order := 1
 	for cycle := range p.cycles() {
