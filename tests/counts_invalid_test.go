@@ -77,30 +77,29 @@ func TestNoList(t *testing.T) {
 	}
 }
 
-func TestNoRun(t *testing.T) {
-	for _, e := range outOf(0, 9) {
-		for _, g := range append(outOf(0, 5), within(0, 5)...) {
-			isNone(t, "RootedRun", impl.RootedRun(e, g), e, g)
+// noneOutside asks a count of two numbers with one of them, or both, out of its range.
+func noneOutside(t *testing.T, what string, count func(a, b int) int, first, second [2]int) {
+	t.Helper()
+	inFirst, outFirst := within(first[0], first[1]), outOf(first[0], first[1])
+	inSecond, outSecond := within(second[0], second[1]), outOf(second[0], second[1])
+	for _, a := range outFirst {
+		for _, b := range append(outSecond, inSecond...) {
+			isNone(t, what, count(a, b), a, b)
 		}
 	}
-	for _, g := range outOf(0, 5) {
-		for _, e := range within(0, 9) {
-			isNone(t, "RootedRun", impl.RootedRun(e, g), e, g)
+	for _, a := range inFirst {
+		for _, b := range outSecond {
+			isNone(t, what, count(a, b), a, b)
 		}
 	}
 }
 
+func TestNoRun(t *testing.T) {
+	noneOutside(t, "RootedRun", impl.RootedRun, [2]int{0, 9}, [2]int{0, 5})
+}
+
 func TestNoFace(t *testing.T) {
-	for _, e := range outOf(0, 9) {
-		for _, p := range append(outOf(0, 18), within(0, 18)...) {
-			isNone(t, "RootedFace", impl.RootedFace(e, p), e, p)
-		}
-	}
-	for _, p := range outOf(0, 18) {
-		for _, e := range within(0, 9) {
-			isNone(t, "RootedFace", impl.RootedFace(e, p), e, p)
-		}
-	}
+	noneOutside(t, "RootedFace", impl.RootedFace, [2]int{0, 9}, [2]int{0, 18})
 }
 
 func TestNoFormula(t *testing.T) {

@@ -1,0 +1,132 @@
+package tests
+
+import (
+	"slices"
+	"testing"
+
+	"loop.example/surfacemaps/impl"
+)
+
+// gluingCalls are the functions of chapter 4 that return lists for a gluing, by name; each result
+// is the lists of one call.
+func gluingCalls() map[string]func(p []int) [][]int {
+	return map[string]func(p []int) [][]int{
+		"GluingTurn": func(p []int) [][]int {
+			turned, _ := impl.GluingTurn(p)
+			return [][]int{turned}
+		},
+		"GluingMap": func(p []int) [][]int {
+			m, _ := impl.GluingMap(p)
+			return [][]int{m.Turn, m.Flip}
+		},
+	}
+}
+
+// TestGluingsShareNoMemory writes over each list of a result, and then the argument, the other
+// list and a second result must be as they were.
+func TestGluingsShareNoMemory(t *testing.T) {
+	for name, call := range gluingCalls() {
+		for _, p := range append(sampleGluings(), notGluings()...) {
+			arg, whole := roomy(p)
+			kept := slices.Clone(whole)
+			first, second := call(arg), call(arg)
+			sameList(t, name+" changes its argument", whole, kept)
+			sameLists(t, name+" called twice", first, second)
+			keptFirst := cloneLists(first)
+			for i := range second {
+				scribble(second[i])
+				sameLists(t, name+" shares memory between its lists", second[i+1:], keptFirst[i+1:])
+			}
+			sameList(t, name+" shares memory with its argument", whole, kept)
+			sameLists(t, name+" shares memory between results", first, keptFirst)
+			scribble(whole)
+			sameLists(t, name+" shares memory with its argument", first, keptFirst)
+		}
+	}
+}
+
+// TestGluingOfSharesNoMemory does the same for the gluings of maps, which from a dart 0 may have
+// the very numbers of the Flip.
+func TestGluingOfSharesNoMemory(t *testing.T) {
+	for _, m := range append(oneFaced(t), memoryMaps()...) {
+		for root := range len(m.Turn) + 1 {
+			arg, whole := roomyMap(m)
+			kept := cloneLists(whole[:])
+			first, ok := impl.GluingOf(arg, root)
+			second, again := impl.GluingOf(arg, root)
+			if ok != again || !slices.Equal(first, second) {
+				t.Errorf("GluingOf returns %v and then %v", first, second)
+			}
+			sameLists(t, "GluingOf changes its arguments", whole[:], kept)
+			keptFirst := slices.Clone(first)
+			scribble(second)
+			sameLists(t, "GluingOf shares memory with its arguments", whole[:], kept)
+			sameList(t, "GluingOf shares memory between results", first, keptFirst)
+			scribble(whole[0])
+			scribble(whole[1])
+			sameList(t, "GluingOf shares memory with its arguments", first, keptFirst)
+		}
+	}
+}
+
+// TestGluingListsShareNoMemory writes over the gluings of a result one after the other, and then
+// over the whole list.
+func TestGluingListsShareNoMemory(t *testing.T) {
+	list := must[[][]int](t)
+	for n := 1; n <= 3; n++ {
+		first, second := list(impl.GluingAll(n)), list(impl.GluingAll(n))
+		kept := cloneLists(first)
+		sameLists(t, "GluingAll called twice", second, kept)
+		for i := range second {
+			scribble(second[i])
+			sameLists(t, "GluingAll shares memory between its gluings", second[i+1:], kept[i+1:])
+		}
+		second = second[:cap(second)]
+		clear(second)
+		sameLists(t, "GluingAll shares memory between results", first, kept)
+		sameLists(t, "GluingAll after its results are changed", list(impl.GluingAll(n)), kept)
+	}
+}
+
+// TestGluingsKeepArguments asks the functions that return no list.
+func TestGluingsKeepArguments(t *testing.T) {
+	for _, p := range append(sampleGluings(), notGluings()...) {
+		arg, whole := roomy(p)
+		kept := slices.Clone(whole)
+		impl.GluingValid(arg)
+		impl.GluingCorners(arg)
+		impl.GluingGenus(arg)
+		impl.GluingPlanar(arg)
+		impl.GluingChord(arg)
+		sameList(t, "a function changes its argument", whole, kept)
+	}
+}
+
+// TestGluingCountsKeepNoState asks for counts in different orders, and again after lists were changed.
+func TestGluingCountsKeepNoState(t *testing.T) {
+	ask := func(numbers []int) map[[3]int]int {
+		out := map[[3]int]int{}
+		for _, n := range numbers {
+			for _, with := range numbers {
+				out[[3]int{0, n, with}] = impl.GluingRun(n, with)
+				out[[3]int{1, n, with}] = impl.GluingCount(n, with)
+				out[[3]int{2, n, with}] = impl.GluingColors(n, with)
+				out[[3]int{3, n, with}] = impl.RootedRun(n, with)
+			}
+			all, _ := impl.GluingAll(n)
+			for _, p := range all {
+				scribble(p)
+			}
+		}
+		return out
+	}
+	up := within(-1, 10)
+	down := slices.Clone(up)
+	slices.Reverse(down)
+	first, second := ask(up), ask(down)
+	for key, n := range first {
+		if second[key] != n {
+			t.Errorf("the count %v is %d first and %d then", key, n, second[key])
+		}
+	}
+}
