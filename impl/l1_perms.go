@@ -92,10 +92,10 @@ func (p perm) conj(by perm) perm {
 	return r
 }
 
-// orbits tries the points as firsts in ascending order, so the first one that
-// reaches a point is the least of its orbit. It never goes back along an arrow:
-// going on often enough leads back, too.
-func (p perm) orbits(q perm) []int {
+// orbits takes p together with some others of as many points. It tries the points as
+// firsts in ascending order, so the first one that reaches a point is the least of its
+// orbit. It never goes back along an arrow: going on often enough leads back, too.
+func (p perm) orbits(others ...perm) []int {
 	least := slices.Repeat([]int{-1}, len(p))
 	for first := range p {
 		open := []int{first}
@@ -106,7 +106,10 @@ func (p perm) orbits(q perm) []int {
 				continue
 			}
 			least[x] = first
-			open = append(open, p[x], q[x])
+			open = append(open, p[x])
+			for _, q := range others {
+				open = append(open, q[x])
+			}
 		}
 	}
 	return least

@@ -22,25 +22,10 @@ func gluingCalls() map[string]func(p []int) [][]int {
 	}
 }
 
-// TestGluingsShareNoMemory writes over each list of a result, and then the argument, the other
-// list and a second result must be as they were.
 func TestGluingsShareNoMemory(t *testing.T) {
 	for name, call := range gluingCalls() {
 		for _, p := range append(sampleGluings(), notGluings()...) {
-			arg, whole := roomy(p)
-			kept := slices.Clone(whole)
-			first, second := call(arg), call(arg)
-			sameList(t, name+" changes its argument", whole, kept)
-			sameLists(t, name+" called twice", first, second)
-			keptFirst := cloneLists(first)
-			for i := range second {
-				scribble(second[i])
-				sameLists(t, name+" shares memory between its lists", second[i+1:], keptFirst[i+1:])
-			}
-			sameList(t, name+" shares memory with its argument", whole, kept)
-			sameLists(t, name+" shares memory between results", first, keptFirst)
-			scribble(whole)
-			sameLists(t, name+" shares memory with its argument", first, keptFirst)
+			sharesNoMemory(t, name, call, p)
 		}
 	}
 }
@@ -69,22 +54,9 @@ func TestGluingOfSharesNoMemory(t *testing.T) {
 	}
 }
 
-// TestGluingListsShareNoMemory writes over the gluings of a result one after the other, and then
-// over the whole list.
 func TestGluingListsShareNoMemory(t *testing.T) {
-	list := must[[][]int](t)
 	for n := 1; n <= 3; n++ {
-		first, second := list(impl.GluingAll(n)), list(impl.GluingAll(n))
-		kept := cloneLists(first)
-		sameLists(t, "GluingAll called twice", second, kept)
-		for i := range second {
-			scribble(second[i])
-			sameLists(t, "GluingAll shares memory between its gluings", second[i+1:], kept[i+1:])
-		}
-		second = second[:cap(second)]
-		clear(second)
-		sameLists(t, "GluingAll shares memory between results", first, kept)
-		sameLists(t, "GluingAll after its results are changed", list(impl.GluingAll(n)), kept)
+		listsShareNoMemory(t, "GluingAll", impl.GluingAll, n)
 	}
 }
 

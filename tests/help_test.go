@@ -145,3 +145,45 @@ func scribble(p []int) {
 		p[i] = -999
 	}
 }
+
+// sharesNoMemory calls a function of one list that returns some. It writes over each list of a
+// result, and then the argument, the other lists and a second result must be as they were.
+func sharesNoMemory(t *testing.T, name string, call func(p []int) [][]int, p []int) {
+	t.Helper()
+	arg, whole := roomy(p)
+	kept := slices.Clone(whole)
+	first, second := call(arg), call(arg)
+	sameList(t, name+" changes its argument", whole, kept)
+	sameLists(t, name+" called twice", first, second)
+	keptFirst := cloneLists(first)
+	for i := range second {
+		scribble(second[i])
+		sameLists(t, name+" shares memory between its lists", second[i+1:], keptFirst[i+1:])
+	}
+	sameList(t, name+" shares memory with its argument", whole, kept)
+	sameLists(t, name+" shares memory between results", first, keptFirst)
+	scribble(whole)
+	sameLists(t, name+" shares memory with its argument", first, keptFirst)
+}
+
+// listsShareNoMemory calls a function of a number that returns lists. It writes over the lists of
+// a result one after the other, up to their capacity, from the first and from the last one on, and
+// then over the whole result: the other lists, another result and a further call must be as they were.
+func listsShareNoMemory(t *testing.T, name string, call func(n int) ([][]int, bool), n int) {
+	t.Helper()
+	list := must[[][]int](t)
+	first, second, third := list(call(n)), list(call(n)), list(call(n))
+	kept := cloneLists(first)
+	sameLists(t, name+" called twice", second, kept)
+	for i := range second {
+		scribble(second[i])
+		sameLists(t, name+" shares memory between its lists", second[i+1:], kept[i+1:])
+	}
+	for i := len(third) - 1; i >= 0; i-- {
+		scribble(third[i])
+		sameLists(t, name+" shares memory between its lists", third[:i], kept[:i])
+	}
+	clear(second[:cap(second)])
+	sameLists(t, name+" shares memory between results", first, kept)
+	sameLists(t, name+" after its results are changed", list(call(n)), kept)
+}
