@@ -63,6 +63,13 @@ func (p perm) cycles() iter.Seq[[]int] {
 	}
 }
 
+// lead makes p take each of some points to the next one, and the last one to the first one.
+func (p perm) lead(cycle []int) {
+	for i, x := range cycle {
+		p[x] = cycle[(i+1)%len(cycle)]
+	}
+}
+
 func (p perm) cycleCount() int {
 	count := 0
 	for range p.cycles() {
@@ -304,9 +311,7 @@ func readCycles(n int, s string) (perm, bool) {
 		if !ok {
 			return nil, false
 		}
-		for i, x := range cycle {
-			p[x] = cycle[(i+1)%len(cycle)]
-		}
+		p.lead(cycle)
 	}
 	return p, true
 }

@@ -35,21 +35,11 @@ func TestGluingsShareNoMemory(t *testing.T) {
 func TestGluingOfSharesNoMemory(t *testing.T) {
 	for _, m := range append(oneFaced(t), memoryMaps()...) {
 		for root := range len(m.Turn) + 1 {
-			arg, whole := roomyMap(m)
-			kept := cloneLists(whole[:])
-			first, ok := impl.GluingOf(arg, root)
-			second, again := impl.GluingOf(arg, root)
-			if ok != again || !slices.Equal(first, second) {
-				t.Errorf("GluingOf returns %v and then %v", first, second)
+			call := func(m impl.Map, none []int) [][]int {
+				p, _ := impl.GluingOf(m, root)
+				return [][]int{p}
 			}
-			sameLists(t, "GluingOf changes its arguments", whole[:], kept)
-			keptFirst := slices.Clone(first)
-			scribble(second)
-			sameLists(t, "GluingOf shares memory with its arguments", whole[:], kept)
-			sameList(t, "GluingOf shares memory between results", first, keptFirst)
-			scribble(whole[0])
-			scribble(whole[1])
-			sameList(t, "GluingOf shares memory with its arguments", first, keptFirst)
+			mapSharesNoMemory(t, "GluingOf", call, m, nil)
 		}
 	}
 }

@@ -146,24 +146,33 @@ func scribble(p []int) {
 	}
 }
 
-// sharesNoMemory calls a function of one list that returns some. It writes over each list of a
-// result, and then the argument, the other lists and a second result must be as they were.
+// sharesNoMemory calls a function of one list that returns some, as keepsApart asks.
 func sharesNoMemory(t *testing.T, name string, call func(p []int) [][]int, p []int) {
 	t.Helper()
 	arg, whole := roomy(p)
-	kept := slices.Clone(whole)
-	first, second := call(arg), call(arg)
-	sameList(t, name+" changes its argument", whole, kept)
+	keepsApart(t, name, [][]int{whole}, func() [][]int { return call(arg) })
+}
+
+// keepsApart makes a call that returns lists, for arguments with some memory behind them. It writes
+// over each list of a result, and then the arguments, the other lists and a second result must be
+// as they were; and when it writes over the arguments, the result must be as it was.
+func keepsApart(t *testing.T, name string, args [][]int, call func() [][]int) {
+	t.Helper()
+	kept := cloneLists(args)
+	first, second := call(), call()
+	sameLists(t, name+" changes its arguments", args, kept)
 	sameLists(t, name+" called twice", first, second)
 	keptFirst := cloneLists(first)
 	for i := range second {
 		scribble(second[i])
 		sameLists(t, name+" shares memory between its lists", second[i+1:], keptFirst[i+1:])
 	}
-	sameList(t, name+" shares memory with its argument", whole, kept)
+	sameLists(t, name+" shares memory with its arguments", args, kept)
 	sameLists(t, name+" shares memory between results", first, keptFirst)
-	scribble(whole)
-	sameLists(t, name+" shares memory with its argument", first, keptFirst)
+	for _, list := range args {
+		scribble(list)
+	}
+	sameLists(t, name+" shares memory with its arguments", first, keptFirst)
 }
 
 // listsShareNoMemory calls a function of a number that returns lists. It writes over the lists of

@@ -55,33 +55,22 @@ func memoryMaps() []impl.Map {
 		impl.Map{})
 }
 
-// TestMapsShareNoMemory writes over each list of a result, and then the arguments, the other
-// list and a second result must be as they were.
 func TestMapsShareNoMemory(t *testing.T) {
 	for name, call := range mapCalls() {
 		for _, m := range memoryMaps() {
 			for _, p := range somePerms(max(len(m.Turn), 1)) {
-				arg, whole := roomyMap(m)
-				by, wholeBy := roomy(p)
-				args := [][]int{whole[0], whole[1], wholeBy}
-				kept := cloneLists(args)
-				first, second := call(arg, by), call(arg, by)
-				sameLists(t, name+" changes its arguments", args, kept)
-				sameLists(t, name+" called twice", first, second)
-				keptFirst := cloneLists(first)
-				for i := range second {
-					scribble(second[i])
-					sameLists(t, name+" shares memory between its lists", second[i+1:], keptFirst[i+1:])
-				}
-				sameLists(t, name+" shares memory with its arguments", args, kept)
-				sameLists(t, name+" shares memory between results", first, keptFirst)
-				for _, list := range args {
-					scribble(list)
-				}
-				sameLists(t, name+" shares memory with its arguments", first, keptFirst)
+				mapSharesNoMemory(t, name, call, m, p)
 			}
 		}
 	}
+}
+
+// mapSharesNoMemory calls a function of a map and a list that returns lists, as keepsApart asks.
+func mapSharesNoMemory(t *testing.T, name string, call func(m impl.Map, by []int) [][]int, m impl.Map, p []int) {
+	t.Helper()
+	arg, whole := roomyMap(m)
+	by, wholeBy := roomy(p)
+	keepsApart(t, name, [][]int{whole[0], whole[1], wholeBy}, func() [][]int { return call(arg, by) })
 }
 
 func cloneLists(lists [][]int) [][]int {

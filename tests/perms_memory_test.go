@@ -48,28 +48,15 @@ func memoryPairs() [][2][]int {
 	}
 }
 
-// TestResultsShareNoMemory writes over results, and then the arguments and a second result must be as they were.
 func TestResultsShareNoMemory(t *testing.T) {
 	for name, call := range permCalls() {
 		for _, pair := range memoryPairs() {
 			a, wholeA := roomy(pair[0])
 			b, wholeB := roomy(pair[1])
-			keptA, keptB := slices.Clone(wholeA), slices.Clone(wholeB)
-			first, ok := call(a, b)
-			second, again := call(a, b)
-			if ok != again || !slices.Equal(first, second) {
-				t.Errorf("%s returns %v and then %v", name, first, second)
-			}
-			kept := slices.Clone(first)
-			sameList(t, name+" changes its first argument", wholeA, keptA)
-			sameList(t, name+" changes its second argument", wholeB, keptB)
-			scribble(second)
-			sameList(t, name+" shares memory with the first argument", wholeA, keptA)
-			sameList(t, name+" shares memory with the second argument", wholeB, keptB)
-			sameList(t, name+" shares memory between results", first, kept)
-			scribble(wholeA)
-			scribble(wholeB)
-			sameList(t, name+" shares memory with an argument", first, kept)
+			keepsApart(t, name, [][]int{wholeA, wholeB}, func() [][]int {
+				p, _ := call(a, b)
+				return [][]int{p}
+			})
 		}
 	}
 }

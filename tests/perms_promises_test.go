@@ -249,7 +249,8 @@ func TestPromise8Conj(t *testing.T) {
 // leastReached returns the least point of all that can be reached from one, by
 // both permutations and by what leads back from them.
 func leastReached(a, b []int, from int) int {
-	seen := map[int]bool{from: true}
+	seen := make([]bool, len(a))
+	seen[from] = true
 	for range a {
 		for x := range a {
 			for _, y := range []int{a[x], b[x]} {
@@ -259,11 +260,7 @@ func leastReached(a, b []int, from int) int {
 			}
 		}
 	}
-	least := from
-	for x := range seen {
-		least = min(least, x)
-	}
-	return least
+	return slices.Index(seen, true)
 }
 
 // Promise 9: orbits.
