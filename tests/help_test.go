@@ -196,3 +196,15 @@ func listsShareNoMemory(t *testing.T, name string, call func(n int) ([][]int, bo
 	sameLists(t, name+" shares memory between results", first, kept)
 	sameLists(t, name+" after its results are changed", list(call(n)), kept)
 }
+
+// keepsNoState asks for the lists of all arguments in one order and then in the opposite one.
+func keepsNoState[T any](t *testing.T, args []T, ask func(arg T) [][]int) {
+	t.Helper()
+	first := make([][][]int, len(args))
+	for i, arg := range args {
+		first[i] = ask(arg)
+	}
+	for i, arg := range slices.Backward(args) {
+		sameLists(t, "the results when asked again", ask(arg), first[i])
+	}
+}

@@ -116,28 +116,16 @@ func TestTreesOfOneList(t *testing.T) {
 	}
 }
 
-// TestTreesKeepNoState asks for all results in one order and then in the opposite one.
+// TestTreesKeepNoState asks for all results of trees and of their quadrangulations.
 func TestTreesKeepNoState(t *testing.T) {
-	trees := append(sampleTrees(), notTrees()...)
-	ask := func() [][][]int {
-		var out [][][]int
-		for _, tree := range trees {
-			var lists [][]int
-			for _, name := range []string{"TreeLabels", "TreeNext", "TreeMap", "TreeQuad"} {
-				lists = append(lists, treeCalls()[name](tree)...)
-			}
-			m, point, _ := impl.TreeQuad(tree)
-			lists = append(lists, quadCalls()["TutteMap"](m, nil)...)
-			lists = append(lists, quadCalls()["QuadTree"](m, nil)...)
-			out = append(out, append(lists, []int{point}))
+	keepsNoState(t, append(sampleTrees(), notTrees()...), func(tree impl.Tree) [][]int {
+		var lists [][]int
+		for _, name := range []string{"TreeLabels", "TreeNext", "TreeMap", "TreeQuad"} {
+			lists = append(lists, treeCalls()[name](tree)...)
 		}
-		return out
-	}
-	first := ask()
-	slices.Reverse(trees)
-	second := ask()
-	slices.Reverse(second)
-	for i := range first {
-		sameLists(t, "the results of a tree", second[i], first[i])
-	}
+		m, point, _ := impl.TreeQuad(tree)
+		lists = append(lists, quadCalls()["TutteMap"](m, nil)...)
+		lists = append(lists, quadCalls()["QuadTree"](m, nil)...)
+		return append(lists, []int{point})
+	})
 }
