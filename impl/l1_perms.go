@@ -122,6 +122,17 @@ func (p perm) orbits(others ...perm) []int {
 	return least
 }
 
+// orbitCount counts the orbits by their least points.
+func (p perm) orbitCount(others ...perm) int {
+	count := 0
+	for x, least := range p.orbits(others...) {
+		if x == least {
+			count++
+		}
+	}
+	return count
+}
+
 // advance makes p the next permutation, compared number by number, or reports false at
 // the last one. It changes p itself, so that all of them can be gone through in one list.
 func (p perm) advance() bool {

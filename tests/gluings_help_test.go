@@ -99,18 +99,13 @@ func isGluing(p []int) bool {
 }
 
 // cornersOf counts the corners of the glued surface: each side has its beginning glued to
-// the end of its partner, and its end to the beginning of this, so these have one label at last.
+// the end of its partner, and its end to the beginning of this.
 func cornersOf(p []int) int {
-	label := stay(len(p))
-	for range p {
-		for i, x := range p {
-			begin, end := x, (i+1)%len(p)
-			least := min(label[begin], label[end])
-			label[begin], label[end] = least, least
-		}
+	var pairs [][2]int
+	for i, x := range p {
+		pairs = append(pairs, [2]int{x, (i + 1) % len(p)})
 	}
-	slices.Sort(label)
-	return len(slices.Compact(label))
+	return groups(len(p), pairs)
 }
 
 // crossed counts the pairs that cross, by each four sides in order.

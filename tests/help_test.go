@@ -104,6 +104,20 @@ func stay(n int) []int {
 	return p
 }
 
+// groups counts how many groups n points are in if the two of each pair are in one: each pair
+// has one label at last.
+func groups(n int, pairs [][2]int) int {
+	label := stay(n)
+	for range n {
+		for _, pair := range pairs {
+			least := min(label[pair[0]], label[pair[1]])
+			label[pair[0]], label[pair[1]] = least, least
+		}
+	}
+	slices.Sort(label)
+	return len(slices.Compact(label))
+}
+
 // must gives the value of a call that has to succeed.
 func must[T any](t *testing.T) func(v T, ok bool) T {
 	return func(v T, ok bool) T {

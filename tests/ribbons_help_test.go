@@ -164,20 +164,15 @@ func withEdge(choice []int, e int) []int {
 	return out
 }
 
-// partsOf counts the parts of a choice: both ends of each chosen edge have one label at last.
+// partsOf counts the parts of a choice: both ends of each chosen edge are in one.
 func partsOf(m impl.Map, choice []int) int {
 	vertex, vertices := cycleOf(m.Turn)
-	label := stay(vertices)
 	darts := edgeDarts(m)
-	for range vertices {
-		for _, e := range choice {
-			a, b := vertex[darts[e][0]], vertex[darts[e][1]]
-			least := min(label[a], label[b])
-			label[a], label[b] = least, least
-		}
+	var pairs [][2]int
+	for _, e := range choice {
+		pairs = append(pairs, [2]int{vertex[darts[e][0]], vertex[darts[e][1]]})
 	}
-	slices.Sort(label)
-	return len(slices.Compact(label))
+	return groups(vertices, pairs)
 }
 
 // sidesOf counts the sides of a choice: the faces of just the chosen darts, with the Turn in
