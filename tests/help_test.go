@@ -95,6 +95,12 @@ func notPerms() [][]int {
 	}
 }
 
+// isPerm tells by the definition whether a list is a permutation.
+func isPerm(p []int) bool {
+	sorted := slices.Sorted(slices.Values(p))
+	return len(p) >= 1 && len(p) <= 12 && slices.Equal(sorted, stay(len(p)))
+}
+
 // stay returns the list that takes each of n points to itself.
 func stay(n int) []int {
 	p := make([]int, n)

@@ -137,7 +137,7 @@ func thenPerm(a, b []int) []int {
 
 // isMap tells by the definition whether both lists are a map.
 func isMap(m impl.Map) bool {
-	if !impl.PermValid(m.Turn) || !impl.PermValid(m.Flip) || len(m.Turn) != len(m.Flip) {
+	if !isPerm(m.Turn) || !isPerm(m.Flip) || len(m.Turn) != len(m.Flip) {
 		return false
 	}
 	for d, x := range m.Flip {
